@@ -1,74 +1,134 @@
 package tests
 
 import (
-	"bytes"
+	"slices"
 	"testing"
 )
 
-const spareBytes = 24
+const spareItems = 24
+
+type item interface{ byte | int }
 
 // roomy keeps a whole array, so that a test sees what is written behind the list that it lends.
-type roomy struct {
-	whole []byte
-	was   []byte
+type roomy[T item] struct {
+	whole []T
+	was   []T
 	count int
 }
 
-func newRoomy(b []byte) *roomy {
-	whole := append(bytes.Clone(b), bytes.Repeat([]byte{0xa5}, spareBytes)...)
-	return &roomy{whole: whole, was: bytes.Clone(whole), count: len(b)}
+func newRoomy[T item](l []T) *roomy[T] {
+	whole := slices.Concat(l, slices.Repeat([]T{0xa5}, spareItems))
+	return &roomy[T]{whole: whole, was: slices.Clone(whole), count: len(l)}
 }
 
-func (r *roomy) list() []byte { return r.whole[:r.count] }
+func (r *roomy[T]) list() []T { return r.whole[:r.count] }
 
-func (r *roomy) untouched() bool { return bytes.Equal(r.whole, r.was) }
+func (r *roomy[T]) untouched() bool { return slices.Equal(r.whole, r.was) }
 
-func (r *roomy) spoil() {
-	for i := range r.whole {
-		r.whole[i] ^= 0xff
-	}
-}
+func (r *roomy[T]) spoil() { spoil(r.whole) }
 
-func spoil(b []byte) {
-	whole := b[:cap(b)]
+func spoil[T item](l []T) {
+	whole := l[:cap(l)]
 	for i := range whole {
-		whole[i] ^= 0xff
+		whole[i] = ^whole[i]
 	}
+}
+
+// lender is a roomy of either kind.
+type lender interface {
+	untouched() bool
+	spoil()
+}
+
+// answer holds all lists of what one call answers.
+type answer struct {
+	bytes [][]byte
+	ints  [][]int
+}
+
+func (a answer) clone() answer {
+	return answer{bytes: cloneLists(a.bytes), ints: cloneLists(a.ints)}
+}
+
+func (a answer) equal(b answer) bool {
+	return slices.EqualFunc(a.bytes, b.bytes, slices.Equal) && slices.EqualFunc(a.ints, b.ints, slices.Equal)
+}
+
+func cloneLists[T item](lists [][]T) [][]T {
+	var out [][]T
+	for _, l := range lists {
+		out = append(out, slices.Clone(l))
+	}
+	return out
 }
 
 // checkMemory calls f on roomy copies of args: they must stay as they are, and share nothing with the answer.
 func checkMemory(t *testing.T, name string, f func(args [][]byte) []byte, args ...[]byte) {
 	t.Helper()
-	lent := make([]*roomy, len(args))
-	lists := make([][]byte, len(args))
-	for i, a := range args {
-		lent[i] = newRoomy(a)
-		lists[i] = lent[i].list()
+	var lent []lender
+	var lists [][]byte
+	for _, a := range args {
+		r := newRoomy(a)
+		lent = append(lent, r)
+		lists = append(lists, r.list())
 	}
-	first, second := f(lists), f(lists)
+	checkAnswer(t, name, lent, func() answer { return answer{bytes: [][]byte{f(lists)}} })
+}
+
+// checkAnswer calls f, which works on what is lent: that must stay as it is, and share nothing with the answer,
+// nor may the answer's lists among themselves, nor with another answer's.
+func checkAnswer(t *testing.T, name string, lent []lender, f func() answer) {
+	t.Helper()
+	first, second := f(), f()
 	checkUntouched(t, name+": the call", lent)
-	told := bytes.Clone(first)
-	if !bytes.Equal(second, told) {
+	told := first.clone()
+	if !second.equal(told) {
 		t.Errorf("%s: %x at first, then %x", name, told, second)
 	}
-	spoil(second)
+	checkParted(t, name, second, told, second.bytes, told.bytes)
+	checkParted(t, name, second, told, second.ints, told.ints)
+	spoilAnswer(second)
 	checkUntouched(t, name+": the answer shares memory; spoiling it", lent)
-	if !bytes.Equal(first, told) {
-		t.Errorf("%s: two answers share memory", name)
-	}
+	checkSame(t, name+": two answers share memory", first, told)
 	for _, r := range lent {
 		r.spoil()
 	}
-	if !bytes.Equal(first, told) {
-		t.Errorf("%s: the answer hangs on the argument's memory", name)
+	checkSame(t, name+": the answer hangs on the argument's memory", first, told)
+}
+
+// checkParted spoils list by list of an answer, and back: no other list of it may change with it.
+func checkParted[T item](t *testing.T, name string, got, want answer, lists, wantLists [][]T) {
+	t.Helper()
+	for i := range lists {
+		spoil(lists[i])
+		spoil(wantLists[i])
+		checkSame(t, name+": two lists of an answer share memory", got, want)
+		spoil(lists[i])
+		spoil(wantLists[i])
 	}
 }
 
-func checkUntouched(t *testing.T, what string, lent []*roomy) {
+func spoilAnswer(a answer) {
+	for _, l := range a.bytes {
+		spoil(l)
+	}
+	for _, l := range a.ints {
+		spoil(l)
+	}
+}
+
+func checkSame(t *testing.T, what string, got, want answer) {
+	t.Helper()
+	if !got.equal(want) {
+		t.Errorf("%s: %x, was %x", what, got, want)
+	}
+}
+
+func checkUntouched(t *testing.T, what string, lent []lender) {
 	t.Helper()
 	for i, r := range lent {
 		if !r.untouched() {
-			t.Errorf("%s changed argument %d: %x, was %x", what, i, r.whole, r.was)
+			t.Errorf("%s changed argument %d: %x", what, i, r)
 		}
 	}
 }
