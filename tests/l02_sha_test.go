@@ -31,6 +31,11 @@ var firstWords = []int{0x6a09e667, 0xbb67ae85, 0x3c6ef372, 0xa54ff53a, 0x510e527
 
 var wrongWords = []int{math.MinInt, -1 << 32, -1, maxWord + 1, 1 << 33, math.MaxInt}
 
+// fills are bytes of one length, the ordinary and the greatest and least among them.
+func fills(count int) [][]byte {
+	return [][]byte{patternBytes(count), make([]byte, count), bytes.Repeat([]byte{255}, count), bytes.Repeat([]byte{0x80}, count)}
+}
+
 // libState is the library's sum in the midst of its work; the words, the count and the tail may be any.
 func libState(t *testing.T, h []int, n int, tail []byte) hash.Hash {
 	t.Helper()
@@ -158,7 +163,7 @@ func TestSha256Lengths(t *testing.T) {
 		counts = append(counts, count)
 	}
 	for _, count := range counts {
-		for _, b := range [][]byte{patternBytes(count), make([]byte, count), bytes.Repeat([]byte{255}, count), bytes.Repeat([]byte{0x80}, count)} {
+		for _, b := range fills(count) {
 			want := sha256.Sum256(b)
 			if got := impl.Sha256(b); !bytes.Equal(got, want[:]) {
 				t.Fatalf("Sha256 of %d bytes = %x, want %x", count, got, want)
