@@ -194,11 +194,15 @@ func TestInstallTornAgainAndAgain(t *testing.T) {
 	}
 }
 
-// Each refusal, wherever the power would go: no operation is taken, and the flash is as it was.
-func TestInstallRefusedTakesNoOperation(t *testing.T) {
-	t.Parallel()
-	r := anySource(1111)
-	p := drawnParcel(r, 4, 3, 7, 2)
+// refusedParcel is one that is not let in, and why.
+type refusedParcel struct {
+	name string
+	code int
+	p    parcel
+}
+
+// refusedParcels are what p becomes by one change each; p has three parts of the kinds 0 to 2, and is let in with that floor, from 1 on.
+func refusedParcels(p parcel, floor int) []refusedParcel {
 	with := func(do func(p *parcel)) parcel {
 		q := parcel{roomyCopy(p.bundle, 0), bytes.Clone(p.env), roomyCopy(p.datas, 0)}
 		do(&q)
@@ -207,14 +211,15 @@ func TestInstallRefusedTakesNoOperation(t *testing.T) {
 	signed := func(do func(b *impl.Bundle)) parcel {
 		return with(func(p *parcel) { do(&p.bundle); *p = p.signed() })
 	}
-	refused := []struct {
-		name string
-		code int
-		p    parcel
-	}{
-		{"511 bytes", impl.DvForm, with(func(p *parcel) { p.env = append(p.env, make([]byte, 511-len(p.env))...) })},
-		{"510 bytes", impl.BuForm, with(func(p *parcel) { p.env = append(p.env, make([]byte, 510-len(p.env))...) })},
+	ofLength := func(length int) parcel {
+		return with(func(p *parcel) { p.env = append(p.env, make([]byte, length-len(p.env))...) })
+	}
+	return []refusedParcel{
+		{"511 bytes", impl.DvForm, ofLength(511)},
+		{"2000 bytes", impl.DvForm, ofLength(2000)},
+		{"510 bytes", impl.BuForm, ofLength(510)},
 		{"no bytes", impl.BuForm, with(func(p *parcel) { p.env = nil })},
+		{"eight data", impl.DvForm, with(func(p *parcel) { p.datas = append(p.datas, make([][]byte, 5)...) })},
 		{"five data", impl.DvForm, with(func(p *parcel) { p.datas = append(p.datas, nil, nil) })},
 		{"four data", impl.DvData, with(func(p *parcel) { p.datas = append(p.datas, nil) })},
 		{"two data", impl.DvData, with(func(p *parcel) { p.datas = p.datas[:2] })},
@@ -226,10 +231,17 @@ func TestInstallRefusedTakesNoOperation(t *testing.T) {
 		{"another seed", impl.BuSign, with(func(p *parcel) { p.env = wantEnvelope(wantBundleBytes(p.bundle), 4, anySeed(6)) })},
 		{"another device", impl.BuDevice, signed(func(b *impl.Bundle) { b.Device = 8 })},
 		{"a need", impl.BuNeeds, signed(func(b *impl.Bundle) { b.Needs = []impl.Need{{Of: 0, Kind: 3, To: 1000}} })},
-		{"a Floor below", impl.BuOld, signed(func(b *impl.Bundle) { b.Floor = 1 })},
+		{"a Floor below", impl.BuOld, signed(func(b *impl.Bundle) { b.Floor = floor - 1 })},
 	}
+}
+
+// Each refusal, wherever the power would go: no operation is taken, and the flash is as it was.
+func TestInstallRefusedTakesNoOperation(t *testing.T) {
+	t.Parallel()
+	r := anySource(1111)
+	p := drawnParcel(r, 4, 3, 7, 2)
 	devices := goodDevices()
-	for i, c := range refused {
+	for i, c := range refusedParcels(p, 2) {
 		for k, cut := range []impl.Cut{{Ops: uncut}, {Ops: 0, Mask: []byte{255}}, {Ops: 1}, {Ops: mostCut, Mask: drawnBytes(r, mostMask)}} {
 			d := devices[(i+k)%len(devices)].device
 			got, reply := checkInstall(t, c.name, d, c.p, cut)
